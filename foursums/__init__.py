@@ -1,0 +1,1 @@
+"""Four functions: weights of sets of things, and the law of four of them."""

@@ -1,0 +1,46 @@
+"""The calls on four weights of sets of things.
+
+A set of things is a whole number: thing v counts 2 to the power of v. So what
+either of two sets has is their bitwise or, and what both have their bitwise and.
+"""
+
+NOT_AS_TOLD = -22
+MOST_THINGS = 5
+MOST_WEIGHT = 1000
+
+
+def count_of_sets(n):
+    """How many sets of n things there are."""
+    return 1 << n
+
+
+def are_weights(n, row):
+    """Whether row has one number from 0 to 1000 for each set of n things."""
+    if len(row) != count_of_sets(n):
+        return False
+    for weight in row:
+        if weight > MOST_WEIGHT:
+            return False
+    return True
+
+
+def are_all_weights(n, rows):
+    """Whether n is 1 to 5 and each of the rows is weights of n things."""
+    # n is looked at first: there may be far too many sets of it to count.
+    if n < 1 or n > MOST_THINGS:
+        return False
+    for row in rows:
+        if not are_weights(n, row):
+            return False
+    return True
+
+
+def holds(n, a, b, c, d):
+    """[1] if it holds, else 0 and the first two sets of which it isn't so; or a refusal alone."""
+    if not are_all_weights(n, (a, b, c, d)):
+        return [NOT_AS_TOLD]
+    for s in range(count_of_sets(n)):
+        for t in range(count_of_sets(n)):
+            if a[s] * b[t] > c[s | t] * d[s & t]:
+                return [0, s, t]
+    return [1]
