@@ -5,6 +5,7 @@ either of two sets has is their bitwise or, and what both have their bitwise and
 """
 
 NOT_AS_TOLD = -22
+NO_ANSWER = -33
 MOST_THINGS = 5
 MOST_WEIGHT = 1000
 
@@ -44,3 +45,24 @@ def holds(n, a, b, c, d):
             if a[s] * b[t] > c[s | t] * d[s & t]:
                 return [0, s, t]
     return [1]
+
+
+def divided_up(number, divisor):
+    """The least whole number that times divisor is no less than number."""
+    return (number + divisor - 1) // divisor
+
+
+def need(n, a, b, c):
+    """How many, then the least fourth ones; or a refusal alone."""
+    if not are_all_weights(n, (a, b, c)):
+        return [NOT_AS_TOLD]
+    least = [0] * count_of_sets(n)
+    for s in range(count_of_sets(n)):
+        for t in range(count_of_sets(n)):
+            wanted = a[s] * b[t]
+            # Where nothing is wanted any fourth one is enough, even beside a c of 0.
+            if wanted > 0:
+                if c[s | t] == 0:
+                    return [NO_ANSWER]
+                least[s & t] = max(least[s & t], divided_up(wanted, c[s | t]))
+    return [len(least)] + least

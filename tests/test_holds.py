@@ -1,63 +1,15 @@
 """Tests of foursums.fours.holds against the document's words."""
 
-import ast
-import contextlib
-import inspect
-import io
 import itertools
 import unittest
 
-import foursums.fours
 from foursums.fours import holds
-
-REFUSED = [-22]
-LARGEST = 4294967295
-ALL_N = (1, 2, 3, 4, 5)
-
-
-def members(number):
-    return frozenset(v for v in range(5) if number // 2 ** v % 2)
-
-
-def number_of(things):
-    return sum(2 ** v for v in things)
-
-
-# Told by Python's sets, so that it doesn't share the program's way of reckoning.
-EITHER = {(s, t): number_of(members(s) | members(t)) for s in range(32) for t in range(32)}
-BOTH = {(s, t): number_of(members(s) & members(t)) for s in range(32) for t in range(32)}
-
-
-def pairs_not_so(n, a, b, c, d):
-    sets = range(2 ** n)
-    return [
-        (s, t) for s in sets for t in sets
-        if a[s] * b[t] > c[EITHER[s, t]] * d[BOTH[s, t]]
-    ]
+from words import ALL_N, BOTH, EITHER, LARGEST, REFUSED, LeavesNothing, members, only, pairs_not_so, row, spread
 
 
 def expected(n, a, b, c, d):
     pairs = pairs_not_so(n, a, b, c, d)
     return [0, *pairs[0]] if pairs else [1]
-
-
-def row(n, weight, **changed):
-    """The same weight for each set, but for those told as s3=7."""
-    weights = [weight] * 2 ** n
-    for name, other in changed.items():
-        weights[int(name[1:])] = other
-    return weights
-
-
-def only(n, place, weight):
-    weights = [0] * 2 ** n
-    weights[place] = weight
-    return weights
-
-
-def spread(n, step, below):
-    """Weights that look mixed but are the same each time."""
-    return [(step * (place + 3) ** 2 + 11 * place) % 9973 % below for place in range(2 ** n)]
 
 
 def just_enough(n, a, b, c):
@@ -146,15 +98,6 @@ class Answers(unittest.TestCase):
         for a, b in itertools.combinations(rows, 2):
             for c, d in itertools.product(rows[::3], repeat=2):
                 self.assertEqual(holds(2, a, b, c, d) == [1], holds(2, b, a, c, d) == [1])
-
-    def test_answer_is_a_list_of_plain_whole_numbers(self):
-        for answer in (
-            holds(1, [0, 0], [0, 0], [0, 0], [0, 0]),
-            holds(1, [1, 1], [1, 1], [0, 0], [0, 0]),
-            holds(0, [], [], [], []),
-        ):
-            self.assertIs(type(answer), list)
-            self.assertEqual({type(number) for number in answer}, {int})
 
 
 class JustAsMuch(unittest.TestCase):
@@ -272,16 +215,6 @@ class Refusals(unittest.TestCase):
                     self.assertNotEqual(holds(n, *four), REFUSED)
 
 
-class Untouched(list):
-    """A list that can't be changed, not for a while either."""
-
-    def refuse(self, *unused):
-        raise AssertionError("a list that was handed in is changed")
-
-    append = clear = extend = insert = pop = remove = reverse = sort = refuse
-    __setitem__ = __delitem__ = __iadd__ = __imul__ = refuse
-
-
 CALLS = (
     (2, [1, 2, 3, 6], [1, 1, 1, 1], [1, 2, 3, 6], [1, 1, 1, 1]),
     (2, [0, 1, 1, 0], [0, 1, 1, 0], [0, 1, 1, 0], [0, 1, 1, 0]),
@@ -294,27 +227,11 @@ CALLS = (
 CALLS_ANSWERS = ([1], [0, 1, 2], [0, 0, 1], [0, 0, 0], REFUSED, REFUSED, REFUSED)
 
 
-class NothingLeftBehind(unittest.TestCase):
-    def test_lists_stay_as_they_were(self):
-        for (n, *four), answer in zip(CALLS, CALLS_ANSWERS, strict=True):
-            handed = [list(w) for w in four]
-            self.assertEqual(holds(n, *handed), answer)
-            self.assertEqual(handed, four)
-
-    def test_lists_are_not_changed_for_a_while(self):
-        for (n, *four), answer in zip(CALLS, CALLS_ANSWERS, strict=True):
-            self.assertEqual(holds(n, *[Untouched(w) for w in four]), answer)
-
-    def test_a_second_call_answers_like_the_first(self):
-        for first, second in itertools.product(range(len(CALLS)), repeat=2):
-            for call in (first, second, first, first):
-                self.assertEqual(holds(*CALLS[call]), CALLS_ANSWERS[call])
-
-    def test_an_answer_that_is_changed_changes_no_later_one(self):
-        for call, answer in zip(CALLS, CALLS_ANSWERS, strict=True):
-            holds(*call).append(7)
-            holds(*call).clear()
-            self.assertEqual(holds(*call), answer)
+class NothingLeftBehind(LeavesNothing, unittest.TestCase):
+    call = staticmethod(holds)
+    names = ["n", "a", "b", "c", "d"]
+    calls = CALLS
+    answers = CALLS_ANSWERS
 
     def test_a_list_changed_between_calls_is_looked_at_anew(self):
         d = row(2, 1)
@@ -324,20 +241,7 @@ class NothingLeftBehind(unittest.TestCase):
         d[1] = 1001
         self.assertEqual(holds(2, row(2, 1), row(2, 1), row(2, 1), d), REFUSED)
 
-    def test_nothing_is_printed(self):
-        out, err = io.StringIO(), io.StringIO()
-        with contextlib.redirect_stdout(out), contextlib.redirect_stderr(err):
-            for call in CALLS:
-                holds(*call)
-        self.assertEqual((out.getvalue(), err.getvalue()), ("", ""))
-
-    def test_nothing_is_imported(self):
-        tree = ast.parse(inspect.getsource(foursums.fours))
-        imports = [node for node in ast.walk(tree) if isinstance(node, (ast.Import, ast.ImportFrom))]
-        self.assertEqual(imports, [])
-
-    def test_arguments_are_called_as_told(self):
-        self.assertEqual(list(inspect.signature(holds).parameters), ["n", "a", "b", "c", "d"])
+    def test_arguments_by_name(self):
         self.assertEqual(holds(n=1, a=[0, 1], b=[1, 0], c=[1, 1], d=[0, 1]), [0, 1, 0])
 
 
