@@ -66,3 +66,14 @@ def need(n, a, b, c):
                     return [NO_ANSWER]
                 least[s & t] = max(least[s & t], divided_up(wanted, c[s | t]))
     return [len(least)] + least
+
+
+def fold(n, a):
+    """How many, then the weights with the last thing forgotten; or a refusal alone."""
+    if not are_all_weights(n, (a,)):
+        return [NOT_AS_TOLD]
+    if n == 1:
+        return [NO_ANSWER]
+    # The last thing counts as much as there are sets without it: it leads from each to its other one.
+    last = count_of_sets(n - 1)
+    return [last] + [a[s] + a[s + last] for s in range(last)]
