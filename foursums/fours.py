@@ -77,3 +77,52 @@ def fold(n, a):
     # The last thing counts as much as there are sets without it: it leads from each to its other one.
     last = count_of_sets(n - 1)
     return [last] + [a[s] + a[s + last] for s in range(last)]
+
+
+def is_family(n, sets):
+    """Whether sets are sets of n things, told rising, each once."""
+    least = 0
+    for s in sets:
+        if s < least or s >= count_of_sets(n):
+            return False
+        least = s + 1
+    return True
+
+
+def joined(x, y):
+    """What either has, of any set of x and any of y, each once."""
+    there = {}
+    for s in x:
+        for t in y:
+            there[s | t] = True
+    return list(there)
+
+
+def met(x, y):
+    """What both have, of any set of x and any of y, each once."""
+    there = {}
+    for s in x:
+        for t in y:
+            there[s & t] = True
+    return list(there)
+
+
+def together(weights, family):
+    """The weights of the family's sets, together."""
+    return sum([weights[s] for s in family])
+
+
+def held_against(first, second):
+    """1 if first is no more than second, else 0; then both."""
+    return [1 if first <= second else 0, first, second]
+
+
+def sides(n, a, b, c, d, x, y):
+    """1 if the first side is no more than the second one, else 0; then both sides; or a refusal alone."""
+    if not are_all_weights(n, (a, b, c, d)):
+        return [NOT_AS_TOLD]
+    if not is_family(n, x) or not is_family(n, y):
+        return [NOT_AS_TOLD]
+    first = together(a, x) * together(b, y)
+    second = together(c, joined(x, y)) * together(d, met(x, y))
+    return held_against(first, second)

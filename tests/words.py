@@ -35,6 +35,27 @@ def pairs_not_so(n, a, b, c, d):
     ]
 
 
+def both_sides(a, b, c, d, x, y):
+    either = {EITHER[pair] for pair in itertools.product(x, y)}
+    both = {BOTH[pair] for pair in itertools.product(x, y)}
+    first = sum(a[s] for s in x) * sum(b[t] for t in y)
+    return first, sum(c[s] for s in either) * sum(d[s] for s in both)
+
+
+def held(first, second):
+    return [int(first <= second), first, second]
+
+
+def families(n):
+    """All families of sets of n things, those with few sets first."""
+    return [list(x) for size in range(2 ** n + 1) for x in itertools.combinations(range(2 ** n), size)]
+
+
+def family(n, step, of):
+    """A family that looks mixed but is the same each time: about one set of that many."""
+    return [s for s in range(2 ** n) if (step * (s + 5) ** 2 + 7 * s) % 9973 % of == 0]
+
+
 def row(n, weight, **changed):
     """The same weight for each set, but for those told as s3=7."""
     weights = [weight] * 2 ** n
