@@ -126,3 +126,11 @@ def sides(n, a, b, c, d, x, y):
     first = together(a, x) * together(b, y)
     second = together(c, joined(x, y)) * together(d, met(x, y))
     return held_against(first, second)
+
+
+def gap(n, a, b, c, d):
+    """1 if the first side, of all sets, is no more than the second one, else 0; then both; or a refusal alone."""
+    if not are_all_weights(n, (a, b, c, d)):
+        return [NOT_AS_TOLD]
+    # All sets joined with all sets are all sets again, and so are those met: each row counts whole.
+    return held_against(sum(a) * sum(b), sum(c) * sum(d))
